@@ -273,7 +273,8 @@ func TestExample(t *testing.T) {
 	}
 }
 
-// TestAllPathsOfFiveCalls goes each way of five calls, from each filling of each capacity on.
+// TestAllPathsOfFiveCalls goes each way of five calls, from each filling of the capacities 0 to 2 on; greater ones are
+// gone through by TestLongPaths.
 func TestAllPathsOfFiveCalls(t *testing.T) {
 	const calls = 5
 	paths := 1
