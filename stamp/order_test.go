@@ -184,7 +184,7 @@ func TestHeldInRuns(t *testing.T) {
 	}
 }
 
-// alphabet are events of up to three goroutines and one channel: all that the rules may let by, and more.
+// alphabet are some events of two goroutines and one channel, of one value, and the spawn of a third one.
 func alphabet() []api.Event {
 	l := []api.Event{spawn(0, 1), spawn(1, 2), compact()}
 	for g := range 2 {
@@ -215,8 +215,9 @@ func follow(t *testing.T, l []api.Event, further int, visit func(l []api.Event))
 	}
 }
 
-// TestAllShortTraces goes through all traces that the rules let by, whether a run has them or not.
-func TestAllShortTraces(t *testing.T) {
+// TestShortTraces goes, behind a goroutine that waits at an empty buffer and at a full one, through all that the rules let by
+// of four events of the alphabet, whether a run has it or not. Strange ones are asked only whether their stamps grow.
+func TestShortTraces(t *testing.T) {
 	for size := range 3 {
 		traces, strange := 0, 0
 		visit := func(l []api.Event) {
